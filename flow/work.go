@@ -2,11 +2,10 @@ package flow
 
 import (
 	"errors"
-	"slices"
-	"strings"
 
 	"bellman/api"
 	"bellman/chain"
+	"bellman/fresh"
 	"bellman/pref"
 	"bellman/route"
 )
@@ -51,10 +50,10 @@ func stepped(f api.Flow, t int64, steps ...step) (api.Flow, bool, api.Errno) {
 	if err := Check(f); err != api.OK {
 		return api.Flow{}, false, err
 	}
-	w := work{Flow: copied(f), now: t}
+	w := work{Flow: fresh.Flow(f), now: t}
 	for _, gone := range append(steps, right) {
 		if err := gone(&w); err != nil {
-			return copied(f), false, number(err)
+			return fresh.Flow(f), false, number(err)
 		}
 	}
 	return w.Flow, w.send, api.OK
@@ -198,12 +197,4 @@ func ended(p api.FlowPhase) bool {
 // isTime tells whether t is one.
 func isTime(t int64) bool {
 	return t >= api.MinTime && t <= api.MaxTime
-}
-
-// copied is f in new memory.
-func copied(f api.Flow) api.Flow {
-	f.User = strings.Clone(f.User)
-	f.Category = strings.Clone(f.Category)
-	f.Events = slices.Clone(f.Events)
-	return f
 }

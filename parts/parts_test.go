@@ -3,6 +3,7 @@ package parts_test
 import (
 	"math"
 	"math/rand"
+	"slices"
 	"strings"
 	"testing"
 
@@ -97,6 +98,57 @@ func TestAnyBytesAreRead(t *testing.T) {
 		}
 		if text := texts.Text(); text != wantText || texts.Bad != (noText != 0) || !texts.Bad && texts.Rest != textRest {
 			t.Fatalf("the text of %q is %q, %t", s, text, texts.Bad)
+		}
+	}
+}
+
+func TestPartsArePutOneBehindTheOther(t *testing.T) {
+	var w parts.Writer
+	w.Nums()
+	w.Nums(300, -1)
+	w.Texts()
+	w.Texts("ab", "", strings.Repeat("x", 4096))
+	w.WriteByte('b')
+	w.List()
+	w.List(5, 0, math.MinInt64)
+	w.WriteString("more")
+	list, _ := wire.Nums(5, 0, math.MinInt64)
+	want := "\x02\x01\x2c\x81\x01" + put("ab") + "\x00" + put(strings.Repeat("x", 4096)) + "b\x00" + list + "more"
+	if w.String() != want {
+		t.Errorf("put are %.100q, not %.100q", w.String(), want)
+	}
+	if parts.Bit(false) != 0 || parts.Bit(true) != 1 {
+		t.Errorf("the bits are %d and %d", parts.Bit(false), parts.Bit(true))
+	}
+}
+
+func TestListsAreRead(t *testing.T) {
+	for _, many := range []int{0, 1, 2, 1023, 1024} {
+		for _, n := range []int64{0, -7, math.MinInt64, math.MaxInt64} {
+			for _, behind := range []string{"", "z", strings.Repeat("more", 5000)} {
+				want := slices.Repeat([]int64{n}, many)
+				var w parts.Writer
+				w.List(want...)
+				r := parts.Reader{Rest: w.String() + behind}
+				if l := r.List(); !slices.Equal(l, want) || r.Bad || r.Rest != behind {
+					t.Fatalf("the list of %d times %d is %.100v, %t, %d bytes behind it", many, n, l, r.Bad, len(r.Rest))
+				}
+				// One byte less, and there is none.
+				r = parts.Reader{Rest: w.String()[:w.Len()-1]}
+				if l := r.List(); len(l) > 0 || !r.Bad || r.Rest != w.String()[:w.Len()-1] {
+					t.Fatalf("the list of %d times %d without its last byte is %.100v, %t", many, n, l, r.Bad)
+				}
+			}
+		}
+	}
+	for _, bad := range []string{"\x81\x01", "\x02\x04\x01" + strings.Repeat("\x00", 1025), "\x01\x02\x01\x05\x09"} {
+		r := parts.Reader{Rest: bad}
+		if l := r.List(); len(l) > 0 || !r.Bad {
+			t.Errorf("the list of %.10q is %v, %t", bad, l, r.Bad)
+		}
+		r.Rest = "\x00"
+		if l := r.List(); len(l) > 0 || r.Rest != "\x00" {
+			t.Error("what is bad is read")
 		}
 	}
 }

@@ -5,6 +5,7 @@ import (
 	"slices"
 
 	"bellman/api"
+	"bellman/fresh"
 )
 
 // Kind is what lists of one kind have: at most Most parts, each one right by Check, and above the one ahead of it by Order, which is below 0, if a is below b, and 0, if they stand in one place; Copy is a part in new memory.
@@ -60,11 +61,7 @@ func (k Kind[P]) Put(l []P, p P) ([]P, api.Errno) {
 
 // Copies are the parts of l, right or not, in new memory.
 func (k Kind[P]) Copies(l []P) []P {
-	var all []P
-	for _, p := range l {
-		all = append(all, k.Copy(p))
-	}
-	return all
+	return fresh.List(l, k.Copy)
 }
 
 // rises tells whether each part is above the one ahead of it.

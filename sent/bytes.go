@@ -5,7 +5,6 @@ import (
 
 	"bellman/api"
 	"bellman/parts"
-	"bellman/wire"
 )
 
 // Encode is m as bytes.
@@ -13,16 +12,10 @@ func Encode(m api.Message) (string, api.Errno) {
 	if err := Check(m); err != api.OK {
 		return "", err
 	}
-	var all strings.Builder
-	for _, n := range []int64{m.Id, m.Flow, int64(m.Channel), int64(m.Rank), int64(m.Try), m.At} {
-		all.WriteString(wire.Num(n))
-	}
-	for _, s := range []string{m.User, m.Category, m.Text} {
-		// What is right has no text that is too long.
-		put, _ := wire.Text(s)
-		all.WriteString(put)
-	}
-	return all.String(), api.OK
+	var w parts.Writer
+	w.Nums(m.Id, m.Flow, int64(m.Channel), int64(m.Rank), int64(m.Try), m.At)
+	w.Texts(m.User, m.Category, m.Text)
+	return w.String(), api.OK
 }
 
 // Decode is the message that s begins with, and what is behind it.

@@ -5,6 +5,7 @@ import (
 	"strings"
 
 	"bellman/api"
+	"bellman/fresh"
 	"bellman/scan"
 )
 
@@ -99,7 +100,7 @@ func bounded(l []api.Tok) error {
 func nodes(l []api.Tok) ([]api.Node, []api.Tok) {
 	var all []api.Node
 	for len(l) > 0 && l[0].Kind != api.TokElse && l[0].Kind != api.TokEnd {
-		n := api.Node{Kind: l[0].Kind, Text: strings.Clone(l[0].Text), Path: copied(l[0].Path)}
+		n := api.Node{Kind: l[0].Kind, Text: strings.Clone(l[0].Text), Path: fresh.List(l[0].Path, strings.Clone)}
 		l = l[1:]
 		if opens(n.Kind) {
 			n.Kids, l = nodes(l)
